@@ -210,19 +210,20 @@ func TestCheckEventTimes(t *testing.T) {
 	}
 }
 
+// checkPlaces puts numbers into a place that must be that of one of so many.
+func checkPlaces(t *testing.T, fresh func() api.Model, count int, what string, set func(m *api.Model, n int)) {
+	t.Helper()
+	for _, n := range append(edgeInts(), -2, 3, 4, 5, 6) {
+		m := fresh()
+		set(&m, n)
+		checkAnswer(t, m, answerIf(n >= 0 && n < count), fmt.Sprint(what, n))
+	}
+}
+
 func TestCheckWhichProgram(t *testing.T) {
 	for _, fresh := range []func() api.Model{example, ordinary, full} {
 		for i := range fresh().LPs {
-			for n := -2; n < 9; n++ {
-				m := fresh()
-				m.LPs[i].Program = n
-				checkAnswer(t, m, answerIf(n >= 0 && n < len(m.Programs)), fmt.Sprint("the program ", n))
-			}
-			for _, n := range []int{math.MinInt, math.MinInt32, math.MaxInt32, math.MaxInt} {
-				m := fresh()
-				m.LPs[i].Program = n
-				checkAnswer(t, m, api.ErrModel, fmt.Sprint("the program ", n))
-			}
+			checkPlaces(t, fresh, len(fresh().Programs), "the program ", func(m *api.Model, n int) { m.LPs[i].Program = n })
 		}
 	}
 }
@@ -230,16 +231,7 @@ func TestCheckWhichProgram(t *testing.T) {
 func TestCheckToWhom(t *testing.T) {
 	for _, fresh := range []func() api.Model{ordinary, full} {
 		for i := range fresh().Init {
-			for n := -2; n < 9; n++ {
-				m := fresh()
-				m.Init[i].Dst = n
-				checkAnswer(t, m, answerIf(n >= 0 && n < len(m.LPs)), fmt.Sprint("an event for ", n))
-			}
-			for _, n := range []int{math.MinInt, math.MinInt32, math.MaxInt32, math.MaxInt} {
-				m := fresh()
-				m.Init[i].Dst = n
-				checkAnswer(t, m, api.ErrModel, fmt.Sprint("an event for ", n))
-			}
+			checkPlaces(t, fresh, len(fresh().LPs), "an event for ", func(m *api.Model, n int) { m.Init[i].Dst = n })
 		}
 	}
 }
